@@ -56,7 +56,7 @@ func TestLimits(t *testing.T) {
 	if d, e := Build(thompson(t, "(a|b)*a(a|b){5}")); e != api.ErrStates || d.Cuts != nil || d.Next != nil || d.Accept != nil {
 		t.Error(d, e)
 	}
-	if d := build(t, "(a|b)*a(a|b){4}"); len(d.Next) != 33 {
+	if d := build(t, "(a|b)*a(a|b){4}"); len(d.Next) != 34 {
 		t.Error(len(d.Next))
 	}
 	if d := build(t, strings.Repeat("a", 62)); len(d.Next) != 64 {
