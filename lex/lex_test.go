@@ -123,6 +123,12 @@ func TestCheckAndJoin(t *testing.T) {
 	if s, e := Join([]api.Token{tok(api.TokEnd, ""), name("a")}); s != "" || e != api.ErrBad {
 		t.Error(s, e)
 	}
+	if s, e := Join([]api.Token{name("a"), tok(api.TokEnd, "")}); s != "a" || e != api.OK {
+		t.Error(s, e)
+	}
+	if s, e := Join([]api.Token{tok(api.TokEnd, "")}); s != "" || e != api.OK {
+		t.Error(s, e)
+	}
 	if s, e := Join(nil); s != "" || e != api.OK {
 		t.Error(s, e)
 	}
