@@ -18,10 +18,15 @@ type reader struct {
 }
 
 // Read is the value that JSON tells.
-func Read(s string) (v []api.Cell, e api.Errno) {
+func Read(s string) ([]api.Cell, api.Errno) {
 	if e := text.Check(s); e != api.OK {
 		return nil, e
 	}
+	return read(s)
+}
+
+// read is Read of a text that is not too long.
+func read(s string) (v []api.Cell, e api.Errno) {
 	defer func() {
 		switch x := recover().(type) {
 		case nil:

@@ -29,10 +29,15 @@ type reader struct {
 const end rune = -1
 
 // Parse is the pattern that a text tells.
-func Parse(s string) (t []api.Rx, e api.Errno) {
+func Parse(s string) ([]api.Rx, api.Errno) {
 	if e := text.Check(s); e != api.OK {
 		return nil, e
 	}
+	return parse(s)
+}
+
+// parse is Parse of a text that is not too long.
+func parse(s string) (t []api.Rx, e api.Errno) {
 	defer func() {
 		switch x := recover().(type) {
 		case nil:
