@@ -394,3 +394,24 @@ func TestManyChanges(t *testing.T) {
 		t.Error(len(faults), e)
 	}
 }
+
+// P30.4: what is handed in is only read, and what is answered is new memory.
+func TestMemory(t *testing.T) {
+	s, st := build(t, base)
+	kind, p := plan(t, "mutation { m(id: 1, n: 2) { id n } a: m(id: 1) { id } }")
+	args, _, _ := Values(s, kind, p, nil)
+	data, faults, calls, out, e := Run(s, st, kind, p, args)
+	if e != api.OK || len(faults) != 1 || len(calls) != 2 {
+		t.Fatal(e)
+	}
+	next := undo.Twin(out)
+	data[1].Many, faults[0].Path[0].Name, calls[0].Args[1].Text = 9, "z", "z"
+	again, more, _, other, e := Run(s, out, kind, p, args)
+	if e != api.OK || len(more) != 2 || show(again) != "{m:null a:null}" || !undo.Same(other, next) {
+		t.Error(show(again), more, e)
+	}
+	other.Tables[0].Rows[0].Data[1].Text = "z"
+	if !undo.Same(out, next) || len(st.Tables[0].Rows) != 0 || args[0][1].Text != "1" || p[0].Key != "m" {
+		t.Error("memory is shared")
+	}
+}

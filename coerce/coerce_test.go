@@ -205,3 +205,22 @@ func TestCheck(t *testing.T) {
 		t.Error("same")
 	}
 }
+
+// P23.3: what is answered is new memory.
+func TestMemory(t *testing.T) {
+	l := defs(t, schema)
+	vars := []api.Arg{{Name: "v", Value: value(t, "[1 2]")}}
+	v := value(t, "[$v [3]]")
+	out, _, e := Literal(l, ref(t, "[[Int]]"), v, vars)
+	if e != api.OK || !cell.Same(out, value(t, "[[1 2] [3]]")) {
+		t.Fatal(out, e)
+	}
+	for i := range out {
+		out[i].Int = 9
+	}
+	one, _, _ := Literal(l, ref(t, "I"), value(t, "{a: 1}"), nil)
+	one[2].Many = 7
+	if !cell.Same(v, value(t, "[$v [3]]")) || !cell.Same(vars[0].Value, value(t, "[1 2]")) || l[1].Inputs[1].Default[0].Many != 1 {
+		t.Error("memory is shared")
+	}
+}

@@ -47,8 +47,15 @@ func hold(t *testing.T, s api.Schema, docs map[string]int) {
 	t.Helper()
 	for text, want := range docs {
 		d := parse(t, text)
-		for range 2 {
+		for turned := range 2 {
+			was := parse(t, text)
+			if turned > 0 {
+				slices.Reverse(was.Frags)
+			}
 			rule, e := Valid(s, d)
+			if !doc.Same(d, was) {
+				t.Error(text, "changed")
+			}
 			if rule != want || want == 0 && e != api.OK || want > 0 && e != api.ErrRule {
 				t.Error(text, rule, int(e))
 			}

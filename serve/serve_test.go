@@ -226,3 +226,25 @@ func TestWrite(t *testing.T) {
 		t.Error(len(got))
 	}
 }
+
+// P31.3: what is handed in is only read, and what is answered is new memory.
+func TestMemory(t *testing.T) {
+	s, st := begin(t, base)
+	_, one, _ := Answer(s, st, ask("mutation { m(id: 1, n: 2) { id } }", ""))
+	was := undo.Twin(one)
+	for _, request := range []string{ask("{ t(id: 1) { n } }", ""), "{", ask("mutation { m(id: 2) { id } }", "")} {
+		_, next, e := Answer(s, one, request)
+		if e != api.OK {
+			t.Fatal(e)
+		}
+		next.Tables[0].Rows[0].Data[2].Int, next.Tables[0].Name = 9, "Z"
+		if !undo.Same(one, was) {
+			t.Fatal("memory is shared", request)
+		}
+	}
+	_, none, _ := Script(s, one, nil)
+	none.Tables[0].Rows[0].Data[2].Int = 9
+	if !undo.Same(one, was) {
+		t.Error("memory is shared")
+	}
+}
