@@ -1,6 +1,7 @@
 package address
 
 import (
+	"strconv"
 	"strings"
 	"testing"
 
@@ -98,6 +99,34 @@ func TestBytes(t *testing.T) {
 		}{{api.Address{Scheme: "a" + s}, small + great + nums + "+-."}, {api.Address{Scheme: s}, small + great}, {api.Address{Scheme: "a", Host: s}, more}, {api.Address{Scheme: "a", HasUser: true, User: s}, more + ":"}, {api.Address{Scheme: "a", Port: s}, nums}, {api.Address{Scheme: "a", Path: "/" + s}, more + ":@/"}, {api.Address{Scheme: "a", HasQuery: true, Query: s}, more + ":@/?"}} {
 			if Check(c.a) != is(c.l) {
 				t.Errorf("%d %v", b, c.a)
+			}
+		}
+	}
+}
+
+// Which two digits make an escape.
+func TestEscapes(t *testing.T) {
+	const hex = "0123456789abcdefABCDEF"
+	for b := range 256 {
+		s := string([]byte{byte(b)})
+		for _, c := range []string{"%" + s + "0", "%0" + s, "%f" + s, "%" + s + "F"} {
+			want := api.ErrUrl
+			if strings.Contains(hex, s) {
+				want = api.OK
+			}
+			if e := Check(api.Address{Scheme: "a", Host: c}); e != want {
+				t.Errorf("%q %v", c, e)
+			}
+			if want != api.OK {
+				continue
+			}
+			n, _ := strconv.ParseUint(c[1:], 16, 8)
+			text := strings.ToUpper(c)
+			if n < 128 && strings.Contains(small+great+nums+"-._~", string(rune(n))) {
+				text = string(rune(n))
+			}
+			if got, e := Canon("a://h/" + c); got != "a://h/"+text || e != api.OK {
+				t.Errorf("%q %q", c, got)
 			}
 		}
 	}

@@ -134,7 +134,7 @@ func TestReachAndStep(t *testing.T) {
 			t.Error(l, e)
 		}
 	}
-	if _, e := Run(a, make([]int, api.MaxWord+1)); e != api.ErrMany {
+	if is, e := Run(a, make([]int, api.MaxWord+1)); e != api.ErrMany || is {
 		t.Error(e)
 	}
 	if is, e := Run(build(t, ".*"), make([]int, api.MaxWord)); !is || e != api.OK {

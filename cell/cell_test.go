@@ -177,3 +177,28 @@ func TestTogether(t *testing.T) {
 		t.Error("twin")
 	}
 }
+
+// Which bytes a name may have.
+func TestNames(t *testing.T) {
+	const letters = "_abcdefghijklmnopqrstuvwxyzABCDEFGHIJKLMNOPQRSTUVWXYZ"
+	for b := range 256 {
+		s := string([]byte{byte(b)})
+		first, later := strings.Contains(letters, s), strings.Contains(letters+"0123456789", s)
+		for text, want := range map[string]bool{s: first, "a" + s: later, s + "a": first} {
+			for _, kind := range []uint8{api.Enum, api.Var} {
+				if e := Check([]api.Cell{{Kind: kind, Text: text}}); (e == api.OK) != want {
+					t.Errorf("%q %v", text, e)
+				}
+			}
+		}
+	}
+	if e := Check([]api.Cell{{Kind: api.Bool}}); e != api.OK {
+		t.Error(e)
+	}
+	if end, e := End(nil, 0); end != 0 || e != api.ErrBad {
+		t.Error(end, e)
+	}
+	if Same(sample(), nested(4)) {
+		t.Error("same")
+	}
+}

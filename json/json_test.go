@@ -67,7 +67,7 @@ func TestRead(t *testing.T) {
 	for s, want := range map[string]string{
 		"[ -0 , \"\\ud83d\\ude00\" ]":         "[0,\"\U0001f600\"]",
 		"\r\n\t {\"b\" : { } ,\n\"a\":[ ]}\n": `{"b":{},"a":[]}`, "-9223372036854775808": "-9223372036854775808", "0": "0", "true": "true", "null": "null", "false": "false",
-		`"\"\\\/\b\f\n\r\t\u00E9\u00e9\uFFFF"`: `"\"\\/` + `\b\f\n\r\t` + "\u00e9\u00e9\uffff" + `"`, `"\u0000\uD800\uDC00"`: `"\u0000` + "\U00010000" + `"`, "\"\x7f\"": "\"\x7f\"",
+		`"\"\\\/\b\f\n\r\t\u00E9\u00e9\uFFFF"`: `"\"\\/` + `\b\f\n\r\t` + "\u00e9\u00e9\uffff" + `"`, `"\u0000\uD800\uDC00"`: `"\u0000` + "\U00010000" + `"`, `"\udbff\udfff\uABCD\uabcd\u0eEfF"`: "\"\U0010ffff\uabcd\uabcd\u0eefF\"", "\" \"": "\" \"", "\"\x7f\"": "\"\x7f\"",
 		strings.Repeat("[", 16) + strings.Repeat("]", 16): strings.Repeat("[", 16) + strings.Repeat("]", 16),
 		"[[],[],[[]],{\"a\":{\"a\":1}}]":                  "[[],[],[[]],{\"a\":{\"a\":1}}]",
 	} {

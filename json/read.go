@@ -158,41 +158,41 @@ func (r *reader) number(head int) {
 	} else if r.digits() == 0 {
 		panic(thrown(api.ErrJson))
 	}
-	fraction, exponent := r.fraction(), r.exponent()
+	r.fraction()
+	r.exponent()
+	// With a fraction, or an exponent, there are no digits of a number.
 	n, e := whole.Read(r.s[from:r.at])
-	if fraction || exponent || e != api.OK {
+	if e != api.OK {
 		panic(thrown(api.ErrNumber))
 	}
 	r.out[head].Kind, r.out[head].Int = api.Int, n
 }
 
 // fraction passes over a fraction, if one stands next.
-func (r *reader) fraction() bool {
+func (r *reader) fraction() {
 	from := r.at
-	if r.peek() == '.' {
-		r.at++
-		if r.digits() > 0 {
-			return true
-		}
+	if r.peek() != '.' {
+		return
 	}
-	r.at = from
-	return false
+	r.at++
+	if r.digits() == 0 {
+		r.at = from
+	}
 }
 
 // exponent passes over an exponent, if one stands next.
-func (r *reader) exponent() bool {
+func (r *reader) exponent() {
 	from := r.at
-	if r.peek() == 'e' || r.peek() == 'E' {
-		r.at++
-		if r.peek() == '+' || r.peek() == '-' {
-			r.at++
-		}
-		if r.digits() > 0 {
-			return true
-		}
+	if r.peek() != 'e' && r.peek() != 'E' {
+		return
 	}
-	r.at = from
-	return false
+	r.at++
+	if r.peek() == '+' || r.peek() == '-' {
+		r.at++
+	}
+	if r.digits() == 0 {
+		r.at = from
+	}
 }
 
 // list reads a list's items.

@@ -45,7 +45,7 @@ func TestParse(t *testing.T) {
 		{`\n\r\t\u10FFff\u00d800`, []api.Rx{rx(api.RxCat, 5), lit(10), lit(13), lit(9), lit(top), lit(0xd800)}, `\u00000a\u00000d\u000009` + "\U0010ffff" + `\u00d800`},
 		{`\.\[\]\(\)\*\+\?\{\}\|\\\-\^`, []api.Rx{rx(api.RxCat, 14), lit('.'), lit('['), lit(']'), lit('('), lit(')'), lit('*'), lit('+'), lit('?'), lit('{'), lit('}'), lit('|'), lit('\\'), lit('-'), lit('^')}, `\.\[\]\(\)\*\+\?\{\}\|\\\-\^`},
 		{"\x7f\u00e9\x01", []api.Rx{rx(api.RxCat, 3), lit(127), lit(0xe9), lit(1)}, `\u00007f` + "\u00e9" + `\u000001`}, {"a,", []api.Rx{rx(api.RxCat, 2), lit('a'), lit(',')}, "a,"},
-		{"a{16}", []api.Rx{rep(16, 16), lit('a')}, "a{16}"}, {"[b-da-c]", []api.Rx{span('a', 'd')}, "[a-d]"},
+		{"[^\u0000-\U0010fffe]", []api.Rx{span(top, top)}, "\U0010ffff"}, {`\u00abcd\u00ABCD\u000eEF\u00dfff\u00e000`, []api.Rx{rx(api.RxCat, 5), lit(0xabcd), lit(0xabcd), lit(0xeef), lit(0xdfff), lit(0xe000)}, "\uabcd\uabcd\u0eef" + `\u00dfff` + "\ue000"}, {"a{9}b{09,10}", []api.Rx{rx(api.RxCat, 2), rep(9, 9), lit('a'), rep(9, 10), lit('b')}, "a{9}b{9,10}"}, {"a{16}", []api.Rx{rep(16, 16), lit('a')}, "a{16}"}, {"[b-da-c]", []api.Rx{span('a', 'd')}, "[a-d]"},
 	} {
 		got, e := Parse(c.s)
 		if e != api.OK || !Same(got, c.want) || Check(got) != api.OK {

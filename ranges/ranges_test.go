@@ -76,13 +76,16 @@ func TestSets(t *testing.T) {
 	if _, e := Norm(append(spread(256, 0), api.Range{From: 2, To: 1})); e != api.ErrMany {
 		t.Error(e)
 	}
-	for _, two := range [][2][]api.Range{{nil, of(0, top)}, {of(0, 3), of(4, top)}, {of(1, 3, 9, top), of(0, 0, 4, 8)}} {
+	for _, two := range [][2][]api.Range{{nil, of(0, top)}, {of(0, 3), of(4, top)}, {of(1, 3, 9, top), of(0, 0, 4, 8)}, {of(0, top-1), of(top, top)}} {
 		if n, e := Not(two[0]); e != api.OK || !Same(n, two[1]) {
 			t.Error(n, e)
 		}
 		if n, e := Not(two[1]); e != api.OK || !Same(n, two[0]) {
 			t.Error(n, e)
 		}
+	}
+	if n, e := Norm(spread(256, 1)); e != api.OK || len(n) != 256 {
+		t.Error(e)
 	}
 	if _, e := Not(spread(256, 1)); e != api.ErrMany {
 		t.Error(e)

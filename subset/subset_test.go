@@ -88,6 +88,14 @@ func TestLimits(t *testing.T) {
 	if d, e := Build(wide(128)); e != api.OK || len(d.Cuts) != 256 {
 		t.Error(e)
 	}
+	odd := wide(128)
+	odd.Edges[0][0].Set[0].From, odd.Edges[0][0].Set[0].To = 1, 1
+	for i := range odd.Edges[0][0].Set {
+		odd.Edges[0][0].Set[i] = api.Range{From: 2*i + 1, To: 2*i + 1}
+	}
+	if d, e := Build(odd); e != api.ErrMany || d.Cuts != nil {
+		t.Error(e)
+	}
 	if d, e := Build(wide(129)); e != api.ErrMany || d.Cuts != nil {
 		t.Error(e)
 	}
@@ -103,6 +111,10 @@ func TestCheck(t *testing.T) {
 	for i := range many.Cuts {
 		many.Cuts[i] = i
 	}
+	full := api.Dfa{Cuts: many.Cuts[:256], Next: [][]int{row(256)}, Accept: row2(1)}
+	if Check(full) != api.OK {
+		t.Error("full")
+	}
 	tall := api.Dfa{Cuts: row(1), Next: make([][]int, 65), Accept: row2(65)}
 	for i := range tall.Next {
 		tall.Next[i] = row(1)
@@ -111,10 +123,10 @@ func TestCheck(t *testing.T) {
 		if Check(d) != api.ErrBad {
 			t.Error(i)
 		}
-		if _, e := Class(d, -1); e != api.ErrBad {
+		if c, e := Class(d, -1); e != api.ErrBad || c != 0 {
 			t.Error(i, e)
 		}
-		if _, e := Walk(d, -1, row(2000)); e != api.ErrBad {
+		if s, e := Walk(d, -1, row(2000)); e != api.ErrBad || s != 0 {
 			t.Error(i, e)
 		}
 		if is, e := Run(d, row(2000)); e != api.ErrBad || is {
@@ -155,11 +167,11 @@ func TestWalk(t *testing.T) {
 		t.Error(s, e)
 	}
 	for _, s := range []int{-1, 3} {
-		if _, e := Walk(d, s, nil); e != api.ErrArg {
+		if to, e := Walk(d, s, nil); e != api.ErrArg || to != 0 {
 			t.Error(e)
 		}
 	}
-	if _, e := Walk(d, -1, make([]int, api.MaxWord+1)); e != api.ErrMany {
+	if s, e := Walk(d, -1, make([]int, api.MaxWord+1)); e != api.ErrMany || s != 0 {
 		t.Error(e)
 	}
 	if s, e := Walk(d, 0, make([]int, api.MaxWord)); s != 1 || e != api.OK {

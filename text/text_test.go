@@ -167,3 +167,24 @@ func TestWhere(t *testing.T) {
 		t.Error(e)
 	}
 }
+
+// With an error all other results are zero.
+func TestZero(t *testing.T) {
+	for _, at := range []int{-1, 0, 1, 2, 3} {
+		if p, n, e := Next("a\xff", at); e != api.OK && (p != 0 || n != 0) {
+			t.Error(at, p, n)
+		}
+		if p, n, e := Back("\xffa\xe2", at); e != api.OK && (p != 0 || n != 0) {
+			t.Error(at, p, n)
+		}
+		if l, c, e := Where("a\xff", at); e != api.ErrUtf || l != 0 || c != 0 {
+			t.Error(at, l, c, e)
+		}
+	}
+	if l, c, e := Where("a\r", 2); l != 2 || c != 1 || e != api.OK {
+		t.Error(l, c, e)
+	}
+	if l, c, e := Where("a\rb", 3); l != 2 || c != 2 || e != api.OK {
+		t.Error(l, c, e)
+	}
+}

@@ -80,10 +80,10 @@ func TestEnds(t *testing.T) {
 	if _, e := Ends([]api.Rx{{}}, make([]int, api.MaxWord+1), -1); e != api.ErrMany {
 		t.Error(e)
 	}
-	if _, e := In([]api.Rx{{}}, make([]int, api.MaxWord+1)); e != api.ErrMany {
+	if is, e := In([]api.Rx{{}}, make([]int, api.MaxWord+1)); e != api.ErrMany || is {
 		t.Error(e)
 	}
-	if _, e := In(nil, nil); e != api.ErrBad {
+	if is, e := In(nil, nil); e != api.ErrBad || is {
 		t.Error(e)
 	}
 }
