@@ -153,6 +153,7 @@ func TestExamples(t *testing.T) {
 	run(t, s, st, "mutation { m(id: 1, n: 2) { id n } }", "{m:{id:1 n:2}}", "")
 	two := run(t, s, st, "mutation { a: m(id: 1, n: 2) { id n } b: m(id: 1, n: 2) { id n } }", "{a:{id:1 n:2} b:null}", "DUPLICATE.b")
 	run(t, s, st, "{ t(id: 9) { id } }", "{t:null}", "")
+	run(t, s, two, "{ __typename t(id: 1) { n } }", "{__typename:Query t:{n:2}}", "")
 	run(t, s, two, "{ t(id: 1) { n x: __typename } __typename }", "{t:{n:2 x:T} __typename:Query}", "")
 	if two.Tables[0].Rows[0].Data[2].Int != 2 {
 		t.Error(two)
@@ -413,5 +414,27 @@ func TestMemory(t *testing.T) {
 	other.Tables[0].Rows[0].Data[1].Text = "z"
 	if !undo.Same(out, next) || len(st.Tables[0].Rows) != 0 || args[0][1].Text != "1" || p[0].Key != "m" {
 		t.Error("memory is shared")
+	}
+}
+
+// Keys are names.
+func TestKeys(t *testing.T) {
+	s, _ := build(t, base)
+	for b := range 256 {
+		for _, key := range []string{string([]byte{byte(b)}), "a" + string([]byte{byte(b)})} {
+			_, _, e := Values(s, api.OpQuery, []api.Pick{{Key: key, Name: typename}}, nil)
+			if (e == api.OK) != lex.Name(key) {
+				t.Errorf("%q %v", key, e)
+			}
+		}
+	}
+	for name, want := range map[string]api.Errno{"null": api.ErrBad, "true": api.ErrBad, "false": api.ErrBad, "A": api.OK} {
+		_, _, e := Values(s, api.OpQuery, []api.Pick{{Key: "a", Name: typename, Args: []api.Arg{{Name: "x", Value: []api.Cell{{Kind: api.Enum, Text: name}}}}}}, nil)
+		if e != want {
+			t.Error(name, e)
+		}
+	}
+	if _, _, e := Values(api.Schema{}, api.OpQuery, nil, nil); e != api.ErrBad {
+		t.Error(e)
 	}
 }

@@ -78,7 +78,7 @@ func TestConstraints(t *testing.T) {
 	for _, c := range []struct{ in, v, want string }{
 		{"Int @range(min: 1, max: 3)", "2", ""}, {"Int @range(min: 1, max: 3)", "0", "a range RANGE"}, {"Int @range(min: 1, max: 3)", "1", ""}, {"Int @range(min: 1, max: 3)", "3", ""}, {"Int @range(min: 1, max: 3)", "4", "a range RANGE"}, {"Int @range(min: 1)", "null", ""}, {"[[Int]] @range(max: 1)", "[[1 2 null] null [3]]", "a.0.1 range RANGE; a.2.0 range RANGE"}, {"Decimal @range(min: \"0.5\", max: 7)", "\"7.01\"", "a range RANGE"}, {"Decimal @range(min: \"0.5\", max: 7)", "\"0.5\"", ""},
 		{"DateTime @range(min: \"2000-01-01T00:00:00+01:00\")", "\"1999-12-31T23:00:00Z\"", ""}, {"DateTime @range(min: \"2000-01-01T00:00:00+01:00\")", "\"1999-12-31T22:59:59Z\"", "a range RANGE"},
-		{"String @length(min: 1, max: 2)", "\"\"", "a length LENGTH"}, {"String @length(min: 1, max: 2)", "\"\u20ac\U0001f600\"", ""}, {"String @length(min: 1, max: 2)", "\"abc\"", "a length LENGTH"}, {"[[Int]] @length(max: 1)", "[[1 2 3]]", ""}, {"[[Int]] @length(max: 1)", "[null null]", "a length LENGTH"}, {"[Int] @length(min: 1)", "[]", "a length LENGTH"}, {"[Int] @length(min: 1)", "null", ""}, {"URL @length(max: 5)", "\"a://bc\"", "a length LENGTH"},
+		{"String @length(min: 1, max: 2)", "\"\"", "a length LENGTH"}, {"String @length(min: 1, max: 2)", "\"\u20ac\U0001f600\"", ""}, {"String @length(min: 1, max: 2)", "\"abc\"", "a length LENGTH"}, {"String @length(min: 1)", "\"a\"", ""}, {"[Int] @length(min: 2, max: 2)", "[1 2]", ""}, {"[[Int]] @length(max: 1)", "[[1 2 3]]", ""}, {"[[Int]] @length(max: 1)", "[null null]", "a length LENGTH"}, {"[Int] @length(min: 1)", "[]", "a length LENGTH"}, {"[Int] @length(min: 1)", "null", ""}, {"URL @length(max: 5)", "\"a://bc\"", "a length LENGTH"},
 		{"String @pattern(is: \"x*\")", "\"xx\"", ""}, {"String @pattern(is: \"x*\")", "\"xy\"", "a pattern PATTERN"}, {"[String] @pattern(is: \"x*\")", "[\"a\" \"x\" null \"b\"]", "a.0 pattern PATTERN; a.3 pattern PATTERN"}, {"String @pattern(is: \"x*\")", "\"" + strings.Repeat("x", 1024) + "\"", ""}, {"String @pattern(is: \"x*\")", "\"" + strings.Repeat("x", 1025) + "\"", "a pattern PATTERN"},
 		{"[String!] @length(max: 1) @pattern(is: \"x*\")", "[\"a\" \"x\" \"b\"]", "a length LENGTH; a.0 pattern PATTERN; a.2 pattern PATTERN"}, {"[String!] @pattern(is: \"x*\") @length(max: 1)", "[\"a\" \"x\"]", "a.0 pattern PATTERN; a length LENGTH"},
 		{"I", "{a:1 b:2}", ""}, {"I", "{a:2 b:2}", "a rule RULE"}, {"I", "{a:-1 b:-2}", "a rule RULE; a.a range RANGE"}, {"I", "{a:null b:2}", ""}, {"I", "{b:2}", ""}, {"I", "{b:1 i:{a:5 b:4 i:{a:-1 b:0}}}", "a.i rule RULE; a.i.i.a range RANGE"}, {"[I!] @length(max: 1)", "[{a:1 b:0} {b:1}]", "a length LENGTH; a.0 rule RULE"},
@@ -148,5 +148,18 @@ func TestBroken(t *testing.T) {
 	}
 	if Same(one, []api.Broken{one[0], {Path: one[1].Path, Dir: one[1].Dir, Code: "X"}}) {
 		t.Error("same")
+	}
+}
+
+// P26.2: what is handed in is only read, behind its end, too.
+func TestOnlyRead(t *testing.T) {
+	l, _, _, _ := sdl.Parse(whole)
+	s, _, _ := schema.Build(l)
+	s.Defs = append(make([]api.Def, 0, len(s.Defs)+4), s.Defs...)
+	if _, e := Broken(s, 1, "f", value(t, "{n: 2}")); e != api.OK {
+		t.Fatal(e)
+	}
+	if behind := s.Defs[:len(s.Defs)+1]; behind[len(s.Defs)].Name != "" {
+		t.Error("changed")
 	}
 }

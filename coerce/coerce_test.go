@@ -12,7 +12,7 @@ import (
 	"provost/sdl"
 )
 
-const schema = "enum E { A B } input I { a: Int! b: [E!] = [A] c: I } input N { n: N m: [N] d: Decimal = 1 } type T { x: Int } input L { l: L = {} } input W { w: [[Int!]] }"
+const schema = "enum E { A B } input I { a: Int! b: [E!] = [A] c: I } input N { n: N m: [N] d: Decimal = 1 } type T { x: Int } input L { l: L = {} } input W { w: [[Int!]] } input P { p: P x: Int }"
 
 func defs(t *testing.T, s string) []api.Def {
 	t.Helper()
@@ -181,6 +181,19 @@ func TestLimits(t *testing.T) {
 	}
 	if _, p, e := Literal(l, ref(t, "N"), value(t, strings.Repeat("{m:", 8)+"{}"+strings.Repeat("}", 8)), nil); len(p) != 8 || e != api.ErrNest {
 		t.Error(len(p), e)
+	}
+	sixteen := value(t, strings.Repeat("{p:", 15)+"{x:1}"+strings.Repeat("}", 15))
+	if out, _, e := Literal(l, ref(t, "P"), sixteen, nil); !cell.Same(out, sixteen) || e != api.OK {
+		t.Error(e)
+	}
+	if _, p, e := Literal(l, ref(t, "[P]"), sixteen, nil); len(p) != 15 || e != api.ErrNest {
+		t.Error(len(p), e)
+	}
+	if out, _, e := Literal(l, ref(t, "P"), value(t, strings.Repeat("{p:", 15)+"{x:$v}"+strings.Repeat("}", 15)), []api.Arg{{Name: "v", Value: value(t, "1")}}); !cell.Same(out, sixteen) || e != api.OK {
+		t.Error(e)
+	}
+	if _, p, e := Literal(l, ref(t, "P"), value(t, strings.Repeat("{p:", 15)+"{x:$v}"+strings.Repeat("}", 15)), []api.Arg{{Name: "v", Value: value(t, "{}")}}); len(p) != 16 || e != api.ErrNest {
+		t.Error(p, e)
 	}
 	if _, _, e := Literal(l, ref(t, "N"), value(t, strings.Repeat("{m:", 7)+"{}"+strings.Repeat("}", 7)), nil); e != api.OK {
 		t.Error(e)

@@ -27,7 +27,7 @@ func bare(l []api.Token) []api.Token {
 func TestLex(t *testing.T) {
 	for s, want := range map[string][]api.Token{
 		"{a(b:-1)} #x":    {mark("{"), name("a"), mark("("), name("b"), mark(":"), num("-1"), mark(")"), mark("}")},
-		"\"\\u00e9,\", x": {str("\u00e9,"), name("x")}, "": nil, "\ufeff\t ,\r\n#a\"\u00e9\n": nil, "#": nil, "#x\ry": {name("y")}, "#\ufeff\t\ny": {name("y")},
+		"\"\\u00e9,\", x": {str("\u00e9,"), name("x")}, "": nil, "\ufeff\t ,\r\n#a\"\u00e9\n": nil, "#": nil, "#x\ry": {name("y")}, "# x y !\nz": {name("z")}, "\" a b \"": {str(" a b ")}, "#\ufeff\t\ny": {name("y")},
 		"...a....b": nil, "... ...": {mark("..."), mark("...")}, "!$&():=@[]{|}": {mark("!"), mark("$"), mark("&"), mark("("), mark(")"), mark(":"), mark("="), mark("@"), mark("["), mark("]"), mark("{"), mark("|"), mark("}")},
 		"_a9 Z__ A\ufeffb": {name("_a9"), name("Z__"), name("A"), name("b")}, "0-1-0 99999999999999999999": {num("0"), num("-1"), num("-0"), num("99999999999999999999")}, "1\"a\"b": {num("1"), str("a"), name("b")},
 		"\"\" \"\"": {str(""), str("")}, "\"a\tb\"\"c\"": {str("a\tb"), str("c")}, `"\"\\\/\b\f\n\r\t\u00E9\ud83d\ude00"`: {str("\"\\/\b\f\n\r\t\u00e9\U0001f600")}, "\"\x7f\u20ac#,\"": {str("\x7f\u20ac#,")},

@@ -62,7 +62,7 @@ func TestValueErrors(t *testing.T) {
 		at    int
 		e     api.Errno
 	}{
-		{"$x", true, 0, api.ErrSyntax}, {"{a 1}", false, 2, api.ErrSyntax}, {"{a:1 a:2}", false, 4, api.ErrTwice}, {"[", false, 1, api.ErrSyntax}, {"[1 }", false, 2, api.ErrSyntax}, {"]", false, 0, api.ErrSyntax}, {"{1:1}", false, 1, api.ErrSyntax}, {"{a:}", false, 3, api.ErrSyntax}, {"{a", false, 2, api.ErrSyntax}, {"$", false, 1, api.ErrSyntax}, {"$ 1", false, 1, api.ErrSyntax}, {"[1 $x]", true, 2, api.ErrSyntax}, {"!", false, 0, api.ErrSyntax}, {"...", false, 0, api.ErrSyntax},
+		{"$x", true, 0, api.ErrSyntax}, {"{a 1}", false, 2, api.ErrSyntax}, {"{a:1 a:2}", false, 4, api.ErrTwice}, {"[", false, 1, api.ErrSyntax}, {"[1 }", false, 2, api.ErrSyntax}, {"]", false, 0, api.ErrSyntax}, {"{1:1}", false, 1, api.ErrSyntax}, {"{\"a\":1}", false, 1, api.ErrSyntax}, {"$\"a\"", false, 1, api.ErrSyntax}, {"{a:}", false, 3, api.ErrSyntax}, {"{a", false, 2, api.ErrSyntax}, {"$", false, 1, api.ErrSyntax}, {"$ 1", false, 1, api.ErrSyntax}, {"[1 $x]", true, 2, api.ErrSyntax}, {"!", false, 0, api.ErrSyntax}, {"...", false, 0, api.ErrSyntax},
 		{"9223372036854775808", false, 0, api.ErrNumber}, {"[1 -9223372036854775809", false, 2, api.ErrNumber}, {deep, false, 16, api.ErrNest}, {strings.Repeat("{a:", 17), false, 48, api.ErrNest}, {"{a:{a:1} b:1 a:1}", false, 11, api.ErrTwice}, {"{a:1 a}", false, 4, api.ErrTwice},
 	} {
 		v, next, e := Value(words(t, c.s), 0, c.fixed)
@@ -179,7 +179,7 @@ func TestDirectives(t *testing.T) {
 	for s, want := range map[string]struct {
 		at int
 		e  api.Errno
-	}{"()": {1, api.ErrSyntax}, "(a)": {2, api.ErrSyntax}, "(a:1": {4, api.ErrSyntax}, "(a:1 a:2)": {4, api.ErrTwice}, "(a:)": {3, api.ErrSyntax}, "(a:1 b": {5, api.ErrSyntax}, "(1:1)": {1, api.ErrSyntax}, "(a:{b:1 b:1})": {7, api.ErrTwice}, "(a:$x)": {3, api.ErrSyntax}} {
+	}{"()": {1, api.ErrSyntax}, "(a)": {2, api.ErrSyntax}, "(a:1": {4, api.ErrSyntax}, "(a:1 a:2)": {4, api.ErrTwice}, "(a:)": {3, api.ErrSyntax}, "(a:1 b": {5, api.ErrSyntax}, "(1:1)": {1, api.ErrSyntax}, "(\"a\":1)": {1, api.ErrSyntax}, "(a:{b:1 b:1})": {7, api.ErrTwice}, "(a:$x)": {3, api.ErrSyntax}} {
 		if a, next, e := Arguments(words(t, s), 0, true); a != nil || next != want.at || e != want.e {
 			t.Error(s, a, next, int(e))
 		}

@@ -130,3 +130,20 @@ func TestChoose(t *testing.T) {
 		t.Error("same")
 	}
 }
+
+// Plans are the same just if all that they tell is.
+func TestSame(t *testing.T) {
+	fresh := func() []api.Pick {
+		return []api.Pick{{Key: "k", Name: "n", Args: []api.Arg{{Name: "a", Value: yes(1)}}, Many: 1}}
+	}
+	for i, turn := range []func(p *api.Pick){func(p *api.Pick) { p.Key = "z" }, func(p *api.Pick) { p.Name = "z" }, func(p *api.Pick) { p.Many = 2 }, func(p *api.Pick) { p.Args[0].Name = "z" }, func(p *api.Pick) { p.Args[0].Value = yes(0) }, func(p *api.Pick) { p.Args = nil }} {
+		p := fresh()
+		turn(&p[0])
+		if Same(p, fresh()) {
+			t.Error(i)
+		}
+	}
+	if !Same(fresh(), fresh()) {
+		t.Error("same")
+	}
+}

@@ -11,7 +11,7 @@ import (
 // P21.1, P21.3, V8: texts in one way, and that they are read as the same.
 func TestDoc(t *testing.T) {
 	for s, want := range map[string]string{
-		"{a(b:1)}": "{ a ( b : 1 ) }", "query{a}": "{ a }", "mutation{a}": "mutation { a }", "mutation M {a}": "mutation M { a }", "query Q{a}": "query Q { a }", "query($x:[Int!]!=[1,2]$y:A){a}": "query ( $ x : [ Int ! ] ! = [ 1 2 ] $ y : A ) { a }",
+		"{a(b:1)}": "{ a ( b : 1 ) }", "query{a}": "{ a }", "mutation{a}": "mutation { a }", "mutation M {a}": "mutation M { a }", "query Q{a}": "query Q { a }", "query($x:A){a}": "query ( $ x : A ) { a }", "query($x:[Int!]!=[1,2]$y:A){a}": "query ( $ x : [ Int ! ] ! = [ 1 2 ] $ y : A ) { a }",
 		"{a:b@d{c,d(x:{y:$z})}...F@d(e:\"\\u0001\"),...on T{x}...{y}... @d{z}} fragment F on T{a}": "{ a : b @ d { c d ( x : { y : $ z } ) } ... F @ d ( e : \"\\u0001\" ) ... on T { x } ... { y } ... @ d { z } } fragment F on T { a }",
 		"fragment F on T{a} query A{a} {b} mutation{c}":                                            "query A { a } { b } mutation { c } fragment F on T { a }",
 	} {
@@ -35,7 +35,7 @@ func TestDoc(t *testing.T) {
 
 func TestSdl(t *testing.T) {
 	for s, want := range map[string]string{
-		"enum E{A}": "enum E { A }", "enum E@x@y(a:1){A,B}": "enum E @ x @ y ( a : 1 ) { A B }", "input I@oneOf{a:Int=1@range(min:0)b:[I!]}": "input I @ oneOf { a : Int = 1 @ range ( min : 0 ) b : [ I ! ] }",
+		"enum E{A}": "enum E { A }", "input I{a:Int}type T{f(a:Int):Int}": "input I { a : Int } type T { f ( a : Int ) : Int }", "enum E@x@y(a:1){A,B}": "enum E @ x @ y ( a : 1 ) { A B }", "input I@oneOf{a:Int=1@range(min:0)b:[I!]}": "input I @ oneOf { a : Int = 1 @ range ( min : 0 ) b : [ I ! ] }",
 		"type T{f(x:E=A y:Int@d):String!@get(of:\"T\")g:T}enum E{A}": "type T { f ( x : E = A y : Int @ d ) : String ! @ get ( of : \"T\" ) g : T } enum E { A }",
 	} {
 		l, _, _, e := sdl.Parse(s)

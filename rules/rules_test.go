@@ -185,3 +185,18 @@ func TestBad(t *testing.T) {
 		t.Error(rule, e)
 	}
 }
+
+// P25.2: what is handed in is only read, behind its end, too.
+func TestOnlyRead(t *testing.T) {
+	s := build(t, wide)
+	d := parse(t, "query ($x: Int) { ...F l(n: $x) @skip(if: true) { id } } fragment F on Query { __typename }")
+	d.Ops[0].Sels = append(make([]api.Sel, 0, 9), d.Ops[0].Sels...)
+	args := &d.Ops[0].Sels[1].Args
+	*args = append(make([]api.Arg, 0, 9), *args...)
+	if rule, e := Valid(s, d); e != api.OK {
+		t.Fatal(rule, e)
+	}
+	if d.Ops[0].Sels[:4][3].Name != "" || (*args)[:2][1].Name != "" {
+		t.Error("changed")
+	}
+}

@@ -133,6 +133,8 @@ func TestBroken(t *testing.T) {
 		`{"code":"RANGE","path":["v","in","n"],"directive":"range"},{"code":"RANGE","path":["w","n"],"directive":"range"},{"code":"ONE_OF","path":["x","in"],"directive":"oneOf"}]}`)
 	hold(t, s, st, ask(`mutation { c(in: {id: "a"}) { id } v(id: 1, in: {n: 10}) @skip(if: true) { id } }`, ""), `{"data":{"c":{"id":"a"}}}`)
 	hold(t, s, st, `{"query":"query A { all { id } } mutation B { v(id: 1, in: {}) { id } }","operationName":"A"}`, `{"data":{"all":[]}}`)
+	hold(t, s, st, ask(`mutation { __typename w(id: 1, n: -6) { id } }`, ""), `{"errors":[{"code":"RANGE","path":["w","n"],"directive":"range"}]}`)
+	hold(t, s, st, ask(`query ($x: E $y: Int) { all(e: $x, n: $y) { id } }`, `{"y":"z"}`), `{"errors":[{"code":"BAD_VALUE","path":["y"]}]}`)
 	// A variable's Null stands where none may be: that value is bad.
 	hold(t, s, st, ask(`query ($x: ID = 1) { k: t(id: $x) { id } }`, `{"x":null}`), `{"errors":[{"code":"BAD_VALUE","path":["k","id"]}]}`)
 	hold(t, s, st, ask(`query ($x: ID = 1) { k: t(id: $x) { id } }`, ""), `{"data":{"k":null}}`)
@@ -145,6 +147,8 @@ func TestTooLarge(t *testing.T) {
 	zeros := `{"v":[0` + strings.Repeat(",0", 1499) + `]}`
 	hold(t, s, st, ask("mutation ($v: [Int]) { c(id: 1, a: $v, b: $v) { id } }", zeros), `{"errors":[{"code":"TOO_LARGE","path":["c"]}]}`)
 	hold(t, s, st, ask("mutation ($v: [Int]) { c(id: 1, a: $v) { id } u(id: 1, b: $v) { id } }", zeros), `{"errors":[{"code":"TOO_LARGE","path":["u"]}],"data":{"c":{"id":"1"},"u":null}}`)
+	s2, st2 := begin(t, `type T @table(most: 2) { id: ID! a: [[Int]] } type Query { t(id: ID!): T @get(of: "T") } type Mutation { c(a: [[Int]], id: ID!): T @create(of: "T") }`)
+	hold(t, s2, st2, ask("mutation ($v: [[Int]]) { c(id: 1, a: $v) { id } }", zeros), `{"errors":[{"code":"TOO_LARGE","path":["v",1023]}]}`)
 	hold(t, s, st, ask("query ($v: ID!) { t(id: $v) { id } }", `{"v":`+strings.Repeat("[", 14)+strings.Repeat("]", 14)+`}`), `{"errors":[{"code":"BAD_VALUE","path":["v"]}]}`)
 }
 

@@ -24,7 +24,11 @@ func TestNew(t *testing.T) {
 	if e != api.OK {
 		t.Fatal(e)
 	}
+	was, _, _ := schema.Build(l)
 	st, e := New(s)
+	if !schema.Same(s, was) {
+		t.Error("changed")
+	}
 	if e != api.OK || !Same(st, api.Store{Tables: []api.Table{{Name: "U", Most: 64}, {Name: "T", Most: 2, Uniques: []string{"n", "id"}}}}) || Check(st) != api.OK {
 		t.Error(st, e)
 	}
@@ -174,5 +178,32 @@ func TestCheck(t *testing.T) {
 	}
 	if Same(full, store()) || !Alike(full, store()) || Alike(store(), store(rec("a", 1))) || !Same(api.Store{}, api.Store{Tables: []api.Table{}, Log: []api.Change{}}) {
 		t.Error("same")
+	}
+}
+
+// Changes are the same just if all that they tell is.
+func TestSame(t *testing.T) {
+	fresh := func() api.Store {
+		st := store()
+		st.Log = []api.Change{{Table: 1, Id: "a", Has: true, Was: rec("b", 1)}}
+		return st
+	}
+	for i, turn := range []func(c *api.Change){func(c *api.Change) { c.Table = 0 }, func(c *api.Change) { c.Id = "z" }, func(c *api.Change) { c.Has = false }, func(c *api.Change) { c.Was.Id = "z" }, func(c *api.Change) { c.Was.Data[2].Int = 7 }} {
+		st := fresh()
+		turn(&st.Log[0])
+		if Same(st, fresh()) || !Alike(st, fresh()) {
+			t.Error(i)
+		}
+	}
+	if !Same(fresh(), fresh()) {
+		t.Error("same")
+	}
+	// What there was not has neither an Id nor Data.
+	for _, was := range []api.Record{{Id: "a"}, {Data: []api.Cell{{}}}} {
+		st := store()
+		st.Log = []api.Change{{Id: "a", Was: was}}
+		if Check(st) != api.ErrBad {
+			t.Error(was)
+		}
 	}
 }
