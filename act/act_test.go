@@ -283,7 +283,7 @@ func TestPlans(t *testing.T) {
 			t.Error(i, e)
 		}
 	}
-	for i, p := range []l{many, deep(8), {one("x", 0)}, {one("c", 0)}, {one(typename, 1), one("id", 0)}, {one("all", 2), one("id", 0)}, {one("all", 1)}, {one("all", -1)}, {one("all", 1), one("zz", 0)}, {one("all", 1), one("id", 1), one("id", 0)}, {one("all", 1), one(typename, 1), one("id", 0)}, {one("all", 2), one("id", 0), one("id", 0)}, {one("all", 0), one("all", 0)}, {one("all", 0), one("id", 0)}, {{Key: "", Name: "all"}}, {{Key: "9", Name: "all"}}, {{Key: "all", Name: "all", Args: []api.Arg{{Name: "e"}}}}, {{Key: "all", Name: "all", Args: []api.Arg{{Name: "-", Value: value(t, "1")}}}}, {{Key: "all", Name: "all", Args: append(id, id...)}}, {{Key: "all", Name: "all", Args: []api.Arg{{Name: "e", Value: []api.Cell{{Kind: api.Enum, Text: "null"}}}}}}, {one("all", 1), {Key: "id", Name: "id", Args: []api.Arg{{Name: "e", Value: []api.Cell{{Kind: api.Object, Many: 1}, {Name: "a b"}}}}}}} {
+	for i, p := range []l{many, deep(8), {one("x", 0)}, {one("c", 0)}, {one(typename, 1), one("id", 0)}, {one("all", 2), one("id", 0)}, {one("all", 1)}, {one("all", -1)}, {one("all", 1), one("zz", 0)}, {one("all", 1), one("id", 1), one("id", 0)}, {one("all", 1), one(typename, 1), one("id", 0)}, {one("all", 1), one("id", 1), one(typename, 0)}, {one(typename, 1), one(typename, 0)}, {one("all", 2), one("id", 0), one("id", 0)}, {one("all", 0), one("all", 0)}, {one("all", 0), one("id", 0)}, {{Key: "", Name: "all"}}, {{Key: "9", Name: "all"}}, {{Key: "all", Name: "all", Args: []api.Arg{{Name: "e"}}}}, {{Key: "all", Name: "all", Args: []api.Arg{{Name: "-", Value: value(t, "1")}}}}, {{Key: "all", Name: "all", Args: append(id, id...)}}, {{Key: "all", Name: "all", Args: []api.Arg{{Name: "e", Value: []api.Cell{{Kind: api.Enum, Text: "null"}}}}}}, {one("all", 1), {Key: "id", Name: "id", Args: []api.Arg{{Name: "e", Value: []api.Cell{{Kind: api.Object, Many: 1}, {Name: "a b"}}}}}}} {
 		if args, _, e := Values(s, api.OpQuery, p, nil); args != nil || e != api.ErrBad {
 			t.Error(i, e)
 		}
@@ -433,6 +433,11 @@ func TestKeys(t *testing.T) {
 		if e != want {
 			t.Error(name, e)
 		}
+	}
+	odd := s
+	odd.Patterns = []api.Pattern{{}}
+	if _, _, e := Values(odd, api.OpQuery, nil, nil); e != api.ErrBad {
+		t.Error(e)
 	}
 	if _, _, e := Values(api.Schema{}, api.OpQuery, nil, nil); e != api.ErrBad {
 		t.Error(e)

@@ -70,13 +70,13 @@ func TestBuild(t *testing.T) {
 	if e != api.OK || len(other.Patterns) != 2 || other.Patterns[0].Text != "b+" || Same(other, s) {
 		t.Error(e)
 	}
-	p3 := defs(t, base+`input I { a: ID @pattern(is: "x") b: ID @pattern(is: "x") c: ID @pattern(is: "y") d: [Int] = [1, 2] }`)
+	p3 := defs(t, base+`enum E { A } input I { a: ID @pattern(is: "x") b: ID @pattern(is: "x") c: ID @pattern(is: "y") d: [Int] = [1, 2] }`)
 	three, _, e := Build(p3)
 	if e != api.OK || len(three.Patterns) != 2 || three.Patterns[1].Text != "y" {
 		t.Error(three.Patterns, e)
 	}
-	p3[2].Inputs[3].Default[1].Int, p3[0].Dirs[0].Args[0].Value[0].Int = 9, 9
-	if three.Defs[2].Inputs[3].Default[1].Int != 1 || three.Defs[0].Dirs[0].Args[0].Value[0].Int != 2 {
+	p3[3].Inputs[3].Default[1].Int, p3[0].Dirs[0].Args[0].Value[0].Int, p3[2].Names[0] = 9, 9, "Z"
+	if three.Defs[3].Inputs[3].Default[1].Int != 1 || three.Defs[2].Names[0] != "A" || three.Defs[0].Dirs[0].Args[0].Value[0].Int != 2 {
 		t.Error("memory is shared")
 	}
 	l[0].Name, l[0].Fields[0].Type.Wraps[0], l[0].Dirs[0].Args[0].Value[0].Int = "Z", 9, 7
@@ -111,7 +111,7 @@ func TestRefused(t *testing.T) {
 		at int
 		e  api.Errno
 	}{
-		{enums(30), 0, api.OK}, {enums(31), 32, api.ErrMany}, {names(16), 0, api.OK}, {names(17), 2, api.ErrMany}, {leaves(16), 0, api.OK}, {leaves(17), 1, api.ErrMany}, {args(16), 0, api.OK}, {args(17), 2, api.ErrMany}, {base + "input I { " + many(17, func(i int) string { return "a" + strconv.Itoa(i) + ": Int " }) + "}", 2, api.ErrMany},
+		{enums(30), 0, api.OK}, {enums(31), 32, api.ErrMany}, {names(16), 0, api.OK}, {names(17), 2, api.ErrMany}, {leaves(16), 0, api.OK}, {leaves(17), 1, api.ErrMany}, {args(16), 0, api.OK}, {args(17), 2, api.ErrMany}, {base + "input I { " + many(16, func(i int) string { return "a" + strconv.Itoa(i) + ": Int " }) + "}", 0, api.OK}, {base + "input I { " + many(17, func(i int) string { return "a" + strconv.Itoa(i) + ": Int " }) + "}", 2, api.ErrMany},
 		{record + "type T @table(most: 1) { id: ID! }", 1, api.ErrTwice}, {base + "enum Int { A }", 2, api.ErrTwice}, {base + "enum __E { A }", 2, api.ErrTwice}, {base + "enum E { A B A }", 2, api.ErrTwice}, {base + "enum E { __A }", 2, api.ErrTwice}, {base + "input I { a: Int a: Int }", 2, api.ErrTwice}, {base + "input I { __a: Int }", 2, api.ErrTwice}, {sub(base, "n: Int", "id: Int"), 0, api.ErrTwice}, {sub(base, "n: Int", "__n: Int"), 0, api.ErrTwice}, {sub(base, "(id: ID!", "(id: ID! id: ID!"), 1, api.ErrTwice}, {sub(base, "(id: ID!", "(__id: ID!"), 1, api.ErrTwice}, {"enum Query { A } " + base, 2, api.ErrTwice},
 		{record, 1, api.ErrNone}, {"enum Query { A }", 1, api.ErrNone}, {base + "input I { a: T }", 2, api.ErrNone}, {base + "input I { a: X }", 2, api.ErrNone}, {sub(base, "n: Int", "n: X"), 0, api.ErrNone}, {sub(base, "n: Int", "n: I") + "input I { a: Int }", 0, api.ErrNone}, {sub(base, "(id: ID!", "(id: ID! x: T"), 1, api.ErrNone}, {"type Query { x: Int }", 0, api.ErrSchema}, {"type Query { x: Y }", 0, api.ErrNone},
 		{sub(base, "n: Int", "n: Int @x"), 0, api.ErrSchema}, {base + "enum E @x { A }", 2, api.ErrSchema}, {base + "input I @x { a: Int }", 2, api.ErrSchema}, {base + "input I @oneOf @oneOf { a: Int }", 2, api.ErrSchema}, {base + "input I @oneOf(a: 1) { a: Int }", 2, api.ErrSchema}, {base + "input I @oneOf { a: Int! }", 2, api.ErrSchema}, {base + "input I @oneOf { a: Int = 1 }", 2, api.ErrSchema}, {base + "input I @oneOf { a: Int }", 0, api.OK}, {base + "input I @table(most: 1) { a: Int }", 2, api.ErrSchema},

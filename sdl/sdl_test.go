@@ -79,6 +79,11 @@ func TestCheck(t *testing.T) {
 			t.Error(i)
 		}
 	}
+	for _, s := range []string{"enum E { A }", "input I { a: Int }", "type T { a: Int }"} {
+		if l, _, _, e := Parse(s); e != api.OK || Check(l) != api.OK {
+			t.Error(s, e)
+		}
+	}
 	twice := fresh()
 	twice[0].Names[1] = "A"
 	if Check(append(twice, twice...)) != api.OK {

@@ -147,7 +147,9 @@ func TestTooLarge(t *testing.T) {
 	zeros := `{"v":[0` + strings.Repeat(",0", 1499) + `]}`
 	hold(t, s, st, ask("mutation ($v: [Int]) { c(id: 1, a: $v, b: $v) { id } }", zeros), `{"errors":[{"code":"TOO_LARGE","path":["c"]}]}`)
 	hold(t, s, st, ask("mutation ($v: [Int]) { c(id: 1, a: $v) { id } u(id: 1, b: $v) { id } }", zeros), `{"errors":[{"code":"TOO_LARGE","path":["u"]}],"data":{"c":{"id":"1"},"u":null}}`)
-	s2, st2 := begin(t, `type T @table(most: 2) { id: ID! a: [[Int]] } type Query { t(id: ID!): T @get(of: "T") } type Mutation { c(a: [[Int]], id: ID!): T @create(of: "T") }`)
+	s2, st2 := begin(t, `type T @table(most: 2) { id: ID! a: [[Int]] } type Query { t(id: ID!): T @get(of: "T") } type Mutation { d(id: ID!): T @delete(of: "T") c(a: [[Int]], id: ID!): T @create(of: "T") }`)
+	hold(t, s2, st2, ask("mutation ($x: ID = 1) { c(id: $x) { id } }", `{"x":null}`), `{"errors":[{"code":"BAD_VALUE","path":["c","id"]}]}`)
+	hold(t, s2, st2, ask("mutation ($x: ID = 1) { c(a: [1], id: $x) { id } }", `{"x":null}`), `{"errors":[{"code":"BAD_VALUE","path":["c","id"]}]}`)
 	hold(t, s2, st2, ask("mutation ($v: [[Int]]) { c(id: 1, a: $v) { id } }", zeros), `{"errors":[{"code":"TOO_LARGE","path":["v",1023]}]}`)
 	hold(t, s, st, ask("query ($v: ID!) { t(id: $v) { id } }", `{"v":`+strings.Repeat("[", 14)+strings.Repeat("]", 14)+`}`), `{"errors":[{"code":"BAD_VALUE","path":["v"]}]}`)
 }
