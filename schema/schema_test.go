@@ -148,9 +148,10 @@ func TestDirs(t *testing.T) {
 		if _, at, e := Build(defs(t, base+"input I { "+in+" }")); e != want || e != api.OK && at != 2 {
 			t.Error(in, at, int(e))
 		}
-		if strings.Contains(in, "I") && strings.HasSuffix(in, ")") && want == api.ErrSchema {
-			if _, at, e := Build(defs(t, sub(base, "(id: ID!", "(id: ID! "+in)+"input I { x: Int }")); e != want || at != 1 {
-				t.Error(in, at, int(e))
+		// An argument's are such as an Input's.
+		if arg, is := strings.CutPrefix(in, "a: Int "); is {
+			if _, at, e := Build(defs(t, base+"type Mutation { m(id: ID!, n: Int "+arg+"): T @create(of: \"T\") }")); e != want || e != api.OK && at != 2 {
+				t.Error(arg, at, int(e))
 			}
 		}
 	}
