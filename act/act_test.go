@@ -189,11 +189,58 @@ func TestLinks(t *testing.T) {
 	run(t, s, st, "{ need(id: 2) { must { id } } t(id: 2) { x: must { id } } }", "null", "NO_LINK.need.must NO_LINK.t.x")
 	run(t, s, st, "{ need(id: 9) { id } __typename }", "null", "NO_RECORD.need")
 	run(t, s, st, "{ all { id must { id } } }", "{all:[{id:1 must:{id:7}} null null]}", "NO_LINK.all.1.must NO_LINK.all.2.must")
-	run(t, s, st, "{ some { must { id } } t(id: 1) { id } }", "{some:null t:{id:1}}", "NO_LINK.some.1.must")
-	run(t, s, st, "{ each { must { id } } t(id: 1) { id } }", "null", "NO_LINK.each.1.must")
+	run(t, s, st, "{ some { must { id } } t(id: 1) { id } }", "{some:null t:{id:1}}", "NO_LINK.some.1.must NO_LINK.some.2.must")
+	run(t, s, st, "{ each { must { id } } t(id: 1) { id } }", "null", "NO_LINK.each.1.must NO_LINK.each.2.must")
 	run(t, s, st, "{ s(id: 7) { up { must { up { a: must { id } b: __typename } } } } }", "{s:{up:{must:{up:{a:{id:7} b:T}}}}}", "")
 	run(t, s, st, "mutation { d(id: 1) { s { up { id } } } }", "{d:{s:{up:null}}}", "")
-	run(t, s, st, "{ t(id: 2) { a: must { id } b: must { id } } }", "{t:null}", "NO_LINK.t.a")
+	run(t, s, st, "{ t(id: 2) { a: must { id } b: must { id } } }", "{t:null}", "NO_LINK.t.a NO_LINK.t.b")
+}
+
+// P30.3, V6: each that fails adds its error, where something beside it has failed ahead, too.
+func TestEachFails(t *testing.T) {
+	s, st := build(t, `type A @table(most: 4) { id: ID! b: ID must: B! @link(by: "b") may: B @link(by: "b") } type B @table(most: 4) { id: ID! a: ID back: A! @link(by: "a") }
+type Query { a(id: ID!): A @get(of: "A") need(id: ID!): A! @get(of: "A") some: [A] @list(of: "A") all: [A!] @list(of: "A") each: [A!]! @list(of: "A") }
+type Mutation { c(id: ID!, b: ID): A @create(of: "A") k(id: ID!, a: ID): B @create(of: "B") d(id: ID!): A! @delete(of: "A") }`)
+	st = run(t, s, st, "mutation { x: c(id: 1, b: 1) { id } y: c(id: 2, b: 9) { id } k(id: 1, a: 9) { id } }", "{x:{id:1} y:{id:2} k:{id:1}}", "")
+	run(t, s, st, "{ a(id: 2) { x: must { id } id may { id } y: must { id } z: must { back { id } } } }", "{a:null}", "NO_LINK.a.x NO_LINK.a.y NO_LINK.a.z")
+	run(t, s, st, "{ some { x: must { p: back { id } id q: back { id } } y: must { id } } }", "{some:[null null]}", "NO_LINK.some.0.x.p NO_LINK.some.0.x.q NO_LINK.some.1.x NO_LINK.some.1.y")
+	run(t, s, st, "{ some { id x: may { p: back { id } q: back { must { id } } } y: may { id } } }", "{some:[{id:1 x:null y:{id:1}} {id:2 x:null y:null}]}", "NO_LINK.some.0.x.p NO_LINK.some.0.x.q")
+	run(t, s, st, "{ all { x: may { back { id } } y: must { id } } a(id: 1) { id } }", "{all:null a:{id:1}}", "NO_LINK.all.0.x.back NO_LINK.all.1.y")
+	run(t, s, st, "{ each { a: must { back { id } } id b: must { back { id } } } a(id: 2) { id } b: need(id: 2) { must { id } } c: need(id: 7) { id } d: a(id: 7) { id } }", "null", "NO_LINK.each.0.a.back NO_LINK.each.0.b.back NO_LINK.each.1.a NO_LINK.each.1.b NO_LINK.b.must NO_RECORD.c")
+	// What is done stands, whatever fails of its completion.
+	end := run(t, s, st, "mutation { c(id: 3) { x: must { id } y: must { id } } again: c(id: 3) { id } }", "{c:null again:null}", "NO_LINK.c.x NO_LINK.c.y DUPLICATE.again")
+	run(t, s, end, "mutation { d(id: 1) { x: must { back { id } } y: must { back { id } } } a: d(id: 1) { id } b: c(id: 3) { id } c: d(id: 3) { id } }", "null", "NO_LINK.d.x.back NO_LINK.d.y.back NO_RECORD.a DUPLICATE.b")
+}
+
+// As many errors as a plan and a list may bring, each by its own path.
+func TestManyFail(t *testing.T) {
+	s, st := build(t, `type T @table(most: 64) { id: ID! no: ID to: T! @link(by: "no") } type Query { all: [T!]! @list(of: "T") some: [T] @list(of: "T") } type Mutation { c(id: ID!): T @create(of: "T") }`)
+	var p []api.Pick
+	var args [][]api.Cell
+	for i := range api.MaxRows {
+		p = append(p, api.Pick{Key: "a" + strconv.Itoa(i), Name: "c"})
+		args = append(args, value(t, "{id: \""+strconv.Itoa(i)+"\"}"))
+	}
+	_, _, _, st, e := Run(s, st, api.OpMutation, p, args)
+	if e != api.OK || len(st.Tables[0].Rows) != api.MaxRows {
+		t.Fatal(e)
+	}
+	for name, want := range map[string]string{"all": "null", "some": "{some:[" + strings.TrimSpace(strings.Repeat("null ", api.MaxRows)) + "]}"} {
+		p := []api.Pick{{Key: name, Name: name, Many: api.MaxPicked - 1}}
+		for i := range api.MaxPicked - 1 {
+			p = append(p, api.Pick{Key: "a" + strconv.Itoa(i), Name: "to"})
+		}
+		data, faults, _, out, e := Run(s, st, api.OpQuery, p, [][]api.Cell{value(t, "{}")})
+		if e != api.OK || show(data) != want || !undo.Alike(out, st) || len(faults) != api.MaxRows*(api.MaxPicked-1) {
+			t.Fatal(name, len(faults), e)
+		}
+		for i, f := range faults {
+			row, kid := i/(api.MaxPicked-1), i%(api.MaxPicked-1)
+			if path := showFaults([]api.Fault{f}); path != "NO_LINK."+name+"."+strconv.Itoa(row)+".a"+strconv.Itoa(kid) {
+				t.Fatal(i, path)
+			}
+		}
+	}
 }
 
 // A record that is no value fails.

@@ -59,8 +59,8 @@ func Run(s api.Schema, st api.Store, kind uint8, plan []api.Pick, args [][]api.C
 		}
 		f, _ := fieldOf(root, plan[at].Name)
 		calls = append(calls, api.Call{Field: f.Name, Args: cell.Twin(args[i])})
-		v, may := r.field(f, at, args[i])
-		null = null || !may
+		v, stands := r.field(f, at, args[i])
+		null = null || !stands
 		data = append(data, named(v, key)...)
 	}
 	if null {
@@ -82,21 +82,21 @@ func (r *runner) field(f api.Field, at int, args []api.Cell) ([]api.Cell, bool) 
 	}
 	// What was done stands: the next call begins with an empty Log.
 	r.st, _ = undo.Forget(c.st)
-	return r.whole(f.Type, res, at, path)
+	return r.place(f.Type, func() []api.Cell { return r.complete(f.Type, res, at, path, "NO_RECORD") })
 }
 
-// whole is a call's result, completed, and whether it may stand at a root's field.
-func (r *runner) whole(t api.Ref, res result, at int, path []api.Step) (v []api.Cell, may bool) {
+// place is what a part of a type is at its place, and whether that may stand there. Null that goes up from a part is held here, so that the parts beside it are completed, too.
+func (r *runner) place(t api.Ref, part func() []api.Cell) (v []api.Cell, stands bool) {
 	defer func() {
 		switch x := recover().(type) {
 		case nil:
 		case up:
-			v, may = []api.Cell{{}}, false
+			v, stands = []api.Cell{{}}, !isNon(t)
 		default:
 			panic(x)
 		}
 	}()
-	return r.complete(t, res, at, path, "NO_RECORD"), true
+	return part(), true
 }
 
 // fault adds an error.
@@ -110,57 +110,62 @@ func step(path []api.Step, s api.Step) []api.Step {
 }
 
 // complete is a result, completed of a type, with the picks under the one at at. Null goes up from what may not be it.
-func (r *runner) complete(t api.Ref, res result, at int, path []api.Step, code string) (v []api.Cell) {
-	defer func() {
-		switch x := recover().(type) {
-		case nil:
-		case up:
-			if isNon(t) {
-				panic(x)
-			}
-			v = []api.Cell{{}}
-		default:
-			panic(x)
-		}
-	}()
-	item, is := kind.Item(t)
-	if is {
-		out := []api.Cell{{Kind: api.List, Many: len(res.rows)}}
-		for i, row := range res.rows {
-			out = append(out, r.complete(item, result{[]api.Record{row}}, at, step(path, api.Step{At: i}), code)...)
-		}
-		return out
+func (r *runner) complete(t api.Ref, res result, at int, path []api.Step, code string) []api.Cell {
+	if item, is := kind.Item(t); is {
+		return r.list(item, res, at, path, code)
 	}
-	if len(res.rows) == 0 {
-		if isNon(t) {
-			r.fault(code, path)
-			panic(up{})
-		}
-		return []api.Cell{{}}
+	if len(res.rows) > 0 {
+		return r.object(t.Name, res.rows[0], at, path)
 	}
-	return r.object(t.Name, res.rows[0], at, path)
+	if isNon(t) {
+		r.fault(code, path)
+		panic(up{})
+	}
+	return []api.Cell{{}}
 }
 
-// object is a record, completed with the picks under the one at at.
-func (r *runner) object(name string, row api.Record, at int, path []api.Step) []api.Cell {
-	d, _ := typeOf(r.s, name)
-	out := []api.Cell{{Kind: api.Object, Many: r.plan[at].Many}}
-	for _, kid := range r.tops(at+1, r.skip(at)) {
-		x := r.plan[kid]
-		out = append(out, named(r.member(d, row, kid, step(path, api.Step{Name: x.Key})), x.Key)...)
+// list is records, each completed by the item. Null goes up only behind the last one: each that fails adds its error.
+func (r *runner) list(item api.Ref, res result, at int, path []api.Step, code string) []api.Cell {
+	out := []api.Cell{{Kind: api.List, Many: len(res.rows)}}
+	null := false
+	for i, row := range res.rows {
+		one, under := result{[]api.Record{row}}, step(path, api.Step{At: i})
+		v, stands := r.place(item, func() []api.Cell { return r.complete(item, one, at, under, code) })
+		null = null || !stands
+		out = append(out, v...)
+	}
+	if null {
+		panic(up{})
 	}
 	return out
 }
 
-// member is what a record has for a pick.
-func (r *runner) member(d api.Def, row api.Record, at int, path []api.Step) []api.Cell {
+// object is a record, completed with the picks under the one at at. Null goes up only behind the last one: each that fails adds its error.
+func (r *runner) object(name string, row api.Record, at int, path []api.Step) []api.Cell {
+	d, _ := typeOf(r.s, name)
+	out := []api.Cell{{Kind: api.Object, Many: r.plan[at].Many}}
+	null := false
+	for _, kid := range r.tops(at+1, r.skip(at)) {
+		key := r.plan[kid].Key
+		v, stands := r.member(d, row, kid, step(path, api.Step{Name: key}))
+		null = null || !stands
+		out = append(out, named(v, key)...)
+	}
+	if null {
+		panic(up{})
+	}
+	return out
+}
+
+// member is what a record has for a pick, and whether that may stand there.
+func (r *runner) member(d api.Def, row api.Record, at int, path []api.Step) ([]api.Cell, bool) {
 	name := r.plan[at].Name
 	if name == typename {
-		return []api.Cell{{Kind: api.Text, Text: d.Name}}
+		return []api.Cell{{Kind: api.Text, Text: d.Name}}, true
 	}
 	f, _ := fieldOf(d, name)
 	if _, link := typeOf(r.s, f.Type.Name); !link {
-		return leaf(row, name)
+		return leaf(row, name), true
 	}
 	var res result
 	by := leaf(row, argument(f.Dirs[0], "by")[0].Text)
@@ -168,5 +173,5 @@ func (r *runner) member(d api.Def, row api.Record, at int, path []api.Step) []ap
 	if linked, is := rowOf(r.st.Tables[to], by[0].Text); is && by[0].Kind != api.Null {
 		res.rows = []api.Record{linked}
 	}
-	return r.complete(f.Type, res, at, path, "NO_LINK")
+	return r.place(f.Type, func() []api.Cell { return r.complete(f.Type, res, at, path, "NO_LINK") })
 }
