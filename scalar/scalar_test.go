@@ -165,15 +165,50 @@ func TestAddAndLong(t *testing.T) {
 	}
 }
 
+// Ways: the table is made of the rows when it is first asked, by Name alone, and it is counted how often that is.
+func TestTable(t *testing.T) {
+	before := asked.Load()
+	Of("URL")
+	Read(api.ScUrl, str("a://b"))
+	Compare(api.ScDecimal, str("1"), str("2"))
+	Add(api.ScInt, num(1), num(2))
+	Long(api.ScString, str("a"))
+	if asked.Load() != before {
+		t.Error("another call than Name asked the table")
+	}
+	for kind := range 256 {
+		Name(uint8(kind))
+	}
+	if n := asked.Load() - before; n != 256 {
+		t.Error(n)
+	}
+	if table != rows() {
+		t.Error(table)
+	}
+	for kind := range 256 {
+		a, b := ask(uint8(kind))
+		if r, is := rowOf(uint8(kind)); r != a || is != b || is != (kind >= 1 && kind <= 8) {
+			t.Error(kind, r, a)
+		}
+	}
+}
+
 // The table may be asked by many at once.
 func TestAtOnce(t *testing.T) {
+	before := asked.Load()
 	var all sync.WaitGroup
 	for range 8 {
 		all.Go(func() {
+			if name, e := Name(api.ScUrl); name != "URL" || e != api.OK {
+				t.Error(name, e)
+			}
 			if kind, is := Of("URL"); kind != api.ScUrl || !is {
 				t.Error(kind)
 			}
 		})
 	}
 	all.Wait()
+	if n := asked.Load() - before; n != 8 {
+		t.Error(n)
+	}
 }
