@@ -4,12 +4,15 @@ import (
 	"strconv"
 	"strings"
 	"testing"
+	"unicode/utf8"
 
 	"provost/api"
 	"provost/cell"
 	"provost/doc"
 	"provost/json"
 	"provost/print"
+	"provost/schema"
+	"provost/sdl"
 	"provost/undo"
 )
 
@@ -231,6 +234,79 @@ func TestWrite(t *testing.T) {
 	if got := Write(deep, nil); got != `{"data":`+strings.Repeat("[", 1<<16)+strings.Repeat("]", 1<<16)+`}` {
 		t.Error(len(got))
 	}
+}
+
+// plainQuote is a text as JSON, code point by code point; of what is no text the empty one.
+func plainQuote(s string) string {
+	if !utf8.ValidString(s) {
+		return `""`
+	}
+	out := `"`
+	for _, r := range s {
+		switch {
+		case r == '"' || r == '\\':
+			out += `\` + string(r)
+		case r == '\n':
+			out += `\n`
+		case r < 32:
+			out += `\u00` + string("0123456789abcdef"[r>>4]) + string("0123456789abcdef"[r&15])
+		default:
+			out += string(r)
+		}
+	}
+	return out + `"`
+}
+
+// P31.1: texts of any size are told, whatever stands where MaxBytes of them end; what is no text is the empty one, wherever it is broken.
+func TestWriteLong(t *testing.T) {
+	tails := []string{"", "b", "\u00e9", "\u20ac", "\U0001f600", "\U0001f600\u20ac\u00e9b", "\"\\", "\n", "\x01\x1f",
+		"\xff", "\x80", "\xc3", "\xe2\x82", "\xf0\x9f\x98", "\x80\x80\x80\x80\x80", "\xed\xa0\x80", "\xc0\x80", "\xf4\x90\x80\x80", "b\xe2\x82b"}
+	for _, times := range []int{1, 2, 3} {
+		for less := range 9 {
+			head := strings.Repeat("a", times*api.MaxBytes-less)
+			for _, tail := range tails {
+				for _, behind := range []string{"", "c", strings.Repeat("c", api.MaxBytes)} {
+					want := plainQuote(tail)
+					if utf8.ValidString(tail) {
+						want = `"` + head + want[1:len(want)-1] + behind + `"`
+					}
+					if got := Write([]api.Cell{{Kind: api.Text, Text: head + tail + behind}}, nil); got != `{"data":`+want+`}` {
+						t.Errorf("%d bytes, %q, %d bytes: %d bytes", len(head), tail, len(behind), len(got))
+					}
+				}
+			}
+		}
+	}
+	for _, s := range []string{"\u00e9", "\u20ac", "\U0001f600", "a\U0001f600", "\x00", "\x80", "\xbf\xbf\xbf", "\xf0"} {
+		s = strings.Repeat(s, 2*api.MaxBytes+1)
+		want := s
+		switch {
+		case s[0] == 0:
+			want = strings.Repeat(`\u0000`, len(s))
+		case !utf8.ValidString(s):
+			want = ""
+		}
+		if got := Write([]api.Cell{{Kind: api.Object, Many: 1}, {Name: s, Kind: api.Enum, Text: s}}, []api.Fault{{Code: s, Path: []api.Step{{Name: s}}, Dir: s}}); got != `{"errors":[{"code":"`+want+`","path":["`+want+`"],"directive":"`+want+`"}],"data":{"`+want+`":"`+want+`"}}` {
+			t.Errorf("%.8q: %d bytes", s, len(got))
+		}
+	}
+}
+
+// P31.2: a schema that is handed in may have names of more than MaxBytes bytes: an answer tells them.
+func TestAnswerLongNames(t *testing.T) {
+	l, _, _, e := sdl.Parse(`enum E { V } type L @table(most: 2) { id: ID! e: E } type T @table(most: 2) { id: ID! x: ID u: L @link(by: "x") } type Query { t(id: ID!): T @get(of: "T") } type Mutation { m(id: ID!, x: ID): T @create(of: "T") }`)
+	if e != api.OK {
+		t.Fatal(e)
+	}
+	long := strings.Repeat("L", api.MaxBytes+1)
+	l[0].Names[0], l[1].Name, l[2].Fields[2].Type.Name = long, long, long
+	s, _, e := schema.Build(l)
+	if e != api.OK {
+		t.Fatal(e)
+	}
+	st, _ := undo.New(s)
+	st.Tables[0].Rows = []api.Record{{Id: "1", Data: []api.Cell{{Kind: api.Object, Many: 2}, {Name: "id", Kind: api.Text, Text: "1"}, {Name: "e", Kind: api.Enum, Text: long}}}}
+	hold(t, s, st, ask("mutation { m(id: 1, x: 1) { u { __typename e } } }", ""), `{"data":{"m":{"u":{"__typename":"`+long+`","e":"`+long+`"}}}}`)
 }
 
 // P31.3: what is handed in is only read, and what is answered is new memory.

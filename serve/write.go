@@ -8,13 +8,33 @@ import (
 	"provost/whole"
 )
 
-// quote is a text as JSON; of what is no text the empty one.
+// quote is a text as JSON, of any size; of what is no text the empty one. It goes piece by piece, as json.Quote takes no more than MaxBytes at once.
 func quote(s string) string {
-	quoted, e := json.Quote(s)
-	if e != api.OK {
-		return `""`
+	var out strings.Builder
+	out.WriteByte('"')
+	for s != "" {
+		n := piece(s)
+		quoted, e := json.Quote(s[:n])
+		if e != api.OK {
+			return `""`
+		}
+		out.WriteString(quoted[1 : len(quoted)-1])
+		s = s[n:]
 	}
-	return quoted
+	out.WriteByte('"')
+	return out.String()
+}
+
+// piece is how many bytes of s are quoted at once: no more than MaxBytes, and of a text no part of a code point, as that would be no text.
+func piece(s string) int {
+	if len(s) <= api.MaxBytes {
+		return len(s)
+	}
+	n := api.MaxBytes
+	for n > api.MaxBytes-3 && s[n]&0xc0 == 0x80 {
+		n--
+	}
+	return n
 }
 
 // member is a name and its JSON.
